@@ -1,6 +1,7 @@
 package seats_test
 
 import (
+	"fmt"
 	"math"
 	"slices"
 	"testing"
@@ -194,7 +195,7 @@ func TestOrder(t *testing.T) {
 		{life(), 7, 5, seated(api.Held, 0, 0, 3)}, {life(), 11, 5, seated(api.Sold, 0, 0, 3)}, {life(), 9999, 5, seated(api.Sold, 0, 0, 3)},
 		{life(), 9999, 6, seatless(api.Unheard, 0)}, {life(), 9999, 0, seatless(api.Unheard, 0)}, {life(), 9999, 99, seatless(api.Unheard, 0)},
 	} {
-		checkOrder(t, "case "+string(rune('a'+i)), x.q, x.minute, x.order, x.want)
+		checkOrder(t, fmt.Sprint("case ", i), x.q, x.minute, x.order, x.want)
 	}
 }
 
