@@ -259,10 +259,18 @@ func (r runner) firstBad(days, changed []int) int {
 	return -1
 }
 
-// changesBy tries all days, and returns the fewest changes, each as late as possible, if there are any with which each day can be shown.
+// isTooLong tells whether some day cannot be shown even by a new lamp.
+func (r runner) isTooLong(days []int) bool {
+	return slices.ContainsFunc(days, func(hours int) bool { return !canBeShown(r.Lamp, r.fresh, 0, hours) })
+}
+
+// changesBy tries all days, and returns the fewest changes, each as late as possible, with which each day can be shown; if a new lamp can show each day.
 func changesBy(l api.Lamp, burnt int, days []int) ([]int, bool) {
 	var best []int
 	found, r := false, newRunner(l, burnt)
+	if r.isTooLong(days) {
+		return nil, false
+	}
 	eachSubset(len(days), func(changed []int) {
 		if found && (len(changed) > len(best) || len(changed) == len(best) && slices.Compare(changed, best) <= 0) {
 			return

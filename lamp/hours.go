@@ -54,8 +54,13 @@ func surelyKept(all iter.Seq[line], l api.Lamp, from int) int {
 	return s.Low
 }
 
-// changes returns the days before which a lamp is changed that has burnt some hours and is good up to an hour, if new ones are good up to another one; and whether each day can be shown.
-func changes(days []int, burnt, good, goodNew int) ([]int, bool) {
+// canShow tells whether a lamp that is new, and good up to an hour, can show a day.
+func canShow(goodNew int) func(hours int) bool {
+	return func(hours int) bool { return hours <= goodNew }
+}
+
+// changes returns the days before which a lamp is changed that has burnt some hours and is good up to an hour, if a new one can show each day.
+func changes(days []int, burnt, good, goodNew int) []int {
 	var changed []int
 	for day, hours := range days {
 		// A lamp that is changed later has burnt less on each day that follows, so it never helps to change one that is good for the day.
@@ -64,9 +69,6 @@ func changes(days []int, burnt, good, goodNew int) ([]int, bool) {
 			burnt, good = 0, goodNew
 		}
 		burnt += hours
-		if burnt > good {
-			return nil, false
-		}
 	}
-	return changed, true
+	return changed
 }

@@ -354,18 +354,27 @@ func TestDaysWithoutHours(t *testing.T) {
 	checkChanges(t, "nothing at all", api.Lamp{}, 0, make([]int, 30))
 }
 
-// P9.8: for the gauges are of the first lamp, days that it can show need not be such that a new one can.
+// P9.8: a day that a new lamp cannot show is an error, also if the first lamp can show it, since its gauges tell more, or a new one is too bright.
 func TestFirstLamp(t *testing.T) {
 	l := exampleL()
 	checkUntil(t, "L", l, 0, 11, 12)
 	checkUntil(t, "L without gauges", with(l, func(l *api.Lamp) { l.Gauges = nil }), 0, 10, 12)
-	checkChanges(t, "up to 11", l, 0, []int{11})
-	checkChanges(t, "up to 11, then to 10", l, 0, []int{11, 10, 10}, 1, 2)
-	checkChanges(t, "from 1 up to 10", l, 1, []int{10, 1}, 1)
-	checkChangesError(t, "from 1 up to 12", l, 1, []int{11}, api.ErrNone)
+	checkChangesError(t, "up to 11", l, 0, []int{11}, api.ErrNone)
 	checkChangesError(t, "11 once more", l, 0, []int{11, 11}, api.ErrNone)
+	checkChangesError(t, "11 after 1", l, 0, []int{1, 11}, api.ErrNone)
+	checkChangesError(t, "from 1 up to 12", l, 1, []int{11}, api.ErrNone)
+	checkChanges(t, "up to 11 in two days", l, 0, []int{10, 1, 10, 10}, 2, 3)
+	checkChanges(t, "from 1 up to 10", l, 1, []int{10, 1}, 1)
+	l.Norm.High = 103
+	checkChangesError(t, "104 at first", l, 5, []int{0}, api.ErrNone)
+	checkChanges(t, "104 at first, but no day", l, 5, nil)
 	bright := with(known(2), func(l *api.Lamp) { l.Norm = span(60, 90) })
-	checkChanges(t, "too bright at first", bright, 5, []int{10, 5})
-	checkChangesError(t, "too bright at first", bright, 5, []int{10, 6}, api.ErrNone)
+	for _, days := range [][]int{{0}, {15}, {10, 5}, {10, 6}} {
+		checkChangesError(t, "too bright at first", bright, 5, days, api.ErrNone)
+	}
 	checkChangesError(t, "too bright at first", bright, 4, []int{1}, api.ErrNone)
+	checkChanges(t, "too bright at first, but no day", bright, 5, nil)
+	dark := api.Lamp{Full: span(0, 1), Gauges: []api.Gauge{gauge(0, 0, 0)}}
+	checkUntil(t, "dark", dark, 0, 0, 0)
+	checkChangesError(t, "dark, a new one perhaps not", dark, 0, []int{0}, api.ErrNone)
 }
